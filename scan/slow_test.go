@@ -412,7 +412,7 @@ func TestFilesAreAsDefined(t *testing.T) {
 	}
 }
 
-// P7.7: of all short bytes behind the beginning, with their checks, just those are files that Write returns for frames of one row, or two.
+// P7.7: of all at most four bytes of an alphabet behind the beginning, with their checks, just those are files that Write returns for a frame of this size.
 func TestReadOfAllBytes(t *testing.T) {
 	alphabet := []byte{0, 1, 2, 3, 4, 5, 127, 128, 129, 130, 131, 132, 133}
 	for _, size := range [][2]byte{{1, 1}, {2, 1}, {3, 1}, {4, 1}, {1, 2}} {
