@@ -306,7 +306,7 @@ func TestChangedTexts(t *testing.T) {
 	}
 }
 
-// P8.8, P8.16: all short texts of a few characters and words, behind a right beginning.
+// P8.8: all texts of up to five of some characters and words, behind the beginning of a text or of none.
 func TestShortTexts(t *testing.T) {
 	parts := []string{"0", "1", "2", "3", " ", "\n", "STEP ", "END ", "STEP 0\n", "END 2\n", "0 0 1 2\n"}
 	var right int
