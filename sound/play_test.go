@@ -91,7 +91,7 @@ func TestFit(t *testing.T) {
 	expectFit(t, y, api.SdFit{Speed: 4000000, Begin: 60011999, Off: 139988001}, proofs(1, 19999, 0, 139997991, 4000000, 0, 19999, 139988001)...)
 }
 
-// P9.4, P9.12: Off and Fit of small tasks, against all begins.
+// P9.4, P9.12: Off and Fit of small tasks, against all begins from -45 to 45; the first sample is from -20 to 16, and no task is off by 20 at its best, so that no other begin is as good.
 func TestSmallFits(t *testing.T) {
 	d := dice(4)
 	for range 1500 {
