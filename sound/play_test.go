@@ -102,7 +102,11 @@ func TestSmallFits(t *testing.T) {
 		for _, speed := range x.Speeds {
 			want = append(want, slowProof(where, speed))
 		}
-		expectFit(t, x, slowFit(x, where, -45, 45), want...)
+		best := slowFit(x, where, -45, 45)
+		expectFit(t, x, best, want...)
+		if best.Off >= 20 || where[0].Lo < -20 || where[0].Hi > 16 {
+			t.Errorf("begins beyond 45 can be as good for %v", x)
+		}
 		speed, begin := from(d, 1, 4500), from(d, -60, 60)
 		off := slowOff(where, speed, begin)
 		expectOff(t, x, speed, begin, slices.Max(off), slices.Index(off, slices.Max(off)))
